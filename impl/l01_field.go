@@ -1,6 +1,7 @@
 package impl
 
 import (
+	"slices"
 	"strconv"
 	"strings"
 )
@@ -151,6 +152,40 @@ func combine(a int64, b int64, operation func(number, number) number) (int64, in
 	return int64(operation(number(a), number(b))), ErrNone
 }
 
+// areNumbers reports whether all elements of a list are numbers.
+func areNumbers(list []int64) bool {
+	return !slices.ContainsFunc(list, func(a int64) bool { return !IsNumber(a) })
+}
+
+// numbersOf returns a copy of a list of which areNumbers is true.
+func numbersOf(list []int64) []number {
+	numbers := make([]number, len(list))
+	for i, a := range list {
+		numbers[i] = number(a)
+	}
+	return numbers
+}
+
+// integersOf returns a copy of a list.
+func integersOf(numbers []number) []int64 {
+	list := make([]int64, len(numbers))
+	for i, a := range numbers {
+		list[i] = int64(a)
+	}
+	return list
+}
+
+// dot returns the sum of the products of the numbers with the same indices of two lists, which are
+// equally long.
+func dot(a []number, b []number) number {
+	// The sum is less than 2^63 for lists of less than 2^31 numbers.
+	sum := number(0)
+	for i := range a {
+		sum += a[i] * b[i]
+	}
+	return sum % Prime
+}
+
 // IsNumber reports whether a is a number.
 func IsNumber(a int64) bool { return 0 <= a && a < Prime }
 
@@ -287,15 +322,8 @@ func ParseNumber(text string) (int64, int64) {
 // equally many, at most MaxList, numbers, and ErrNone. Errors: ErrRange also if the lists have
 // different or greater lengths.
 func DotOf(a []int64, b []int64) (int64, int64) {
-	if len(a) != len(b) || len(a) > MaxList {
+	if len(a) != len(b) || len(a) > MaxList || !areNumbers(a) || !areNumbers(b) {
 		return 0, ErrRange
 	}
-	sum := number(0)
-	for i := range a {
-		if !IsNumber(a[i]) || !IsNumber(b[i]) {
-			return 0, ErrRange
-		}
-		sum = sum.plus(number(a[i]).times(number(b[i])))
-	}
-	return int64(sum), ErrNone
+	return int64(dot(numbersOf(a), numbersOf(b))), ErrNone
 }
